@@ -8,6 +8,7 @@ import (
 	"starfish/field"
 	"starfish/matrix"
 	"starfish/poly"
+	"starfish/symbols"
 	"starfish/welch"
 )
 
@@ -22,7 +23,7 @@ func (c *Code) Decode(shares []api.Symbols, t int) ([]byte, []int, api.Errno) {
 	if c.isNone() {
 		return nil, nil, api.ErrNil
 	}
-	if t < 0 || !c.are(shares, c.alpha) {
+	if t < 0 || !symbols.Valid(shares, c.n, c.alpha) {
 		return nil, nil, api.ErrArg
 	}
 	if len(shares) < c.k || t > (len(shares)-c.k)/2 { // halved, since twice t could be beyond an int
