@@ -55,6 +55,32 @@ func TestValid(t *testing.T) {
 	}
 }
 
+func TestAreFrom(t *testing.T) {
+	for i, x := range []struct {
+		all   []api.Symbols
+		nodes int
+		out   []int
+		want  bool
+	}{
+		{nil, 4, nil, true},
+		{nil, -1, []int{1}, true},
+		{of(2, 3, 0, 2, 1), 4, nil, true},
+		{append(of(2, 1), of(3, 2)...), 4, []int{0, 3}, true},
+		{append(of(0, 1), of(70000, 2)...), 3, nil, true},
+		{append(of(2, 1), of(3, 1)...), 4, nil, false},
+		{of(2, 0, 4), 4, nil, false},
+		{of(2, -1, 0), 4, nil, false},
+		{of(2, 0), 0, nil, false},
+		{of(2, 0), -1, nil, false},
+		{of(2, math.MaxInt), 4, nil, false},
+		{of(2, 1, 2), 4, []int{3, 1}, false},
+	} {
+		if got := symbols.AreFrom(x.all, x.nodes, x.out...); got != x.want {
+			t.Errorf("%d: %v", i, got)
+		}
+	}
+}
+
 func TestIsNode(t *testing.T) {
 	for _, nodes := range []int{-1, 0, 1, 5, 255} {
 		var got []int
